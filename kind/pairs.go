@@ -1,0 +1,36 @@
+package kind
+
+import (
+	"maps"
+	"slices"
+
+	"plinth/api"
+)
+
+// byName is a substitution by its names: of several pairs of a name the first
+// one counts.
+func byName(by []Pair) map[string]api.Form {
+	known := map[string]api.Form{}
+	for _, pair := range by {
+		if _, ok := known[pair.Name]; !ok {
+			known[pair.Name] = pair.To
+		}
+	}
+	return known
+}
+
+// ascending is a substitution as pairs.
+func ascending(known map[string]api.Form) []Pair {
+	var pairs []Pair
+	for _, name := range slices.Sorted(maps.Keys(known)) {
+		pairs = append(pairs, Pair{Name: name, To: known[name]})
+	}
+	return pairs
+}
+
+// withoutItself is a substitution without pairs of a variable and itself.
+func withoutItself(pairs []Pair) []Pair {
+	return slices.DeleteFunc(pairs, func(pair Pair) bool {
+		return pair.To.Kind == api.Word && pair.To.Text == pair.Name
+	})
+}
