@@ -18,12 +18,13 @@ const (
 )
 
 // differ are the first parts, from the front, in which two types differ; false,
-// if they are equal. In a fun's arguments a word that is first is no head.
+// if they are equal. In a fun's arguments a word that is first is no head. Lists
+// of unlike lengths differ as a whole, but behind the Kids that both have.
 func differ(a, b api.Form, arguments bool) (api.Form, api.Form, bool) {
-	if a.Kind != api.List || b.Kind != api.List || len(a.Kids) != len(b.Kids) {
+	if a.Kind != api.List || b.Kind != api.List {
 		return a, b, !reader.Equal(a, b)
 	}
-	for i := range a.Kids {
+	for i := range min(len(a.Kids), len(b.Kids)) {
 		if i == 0 && !arguments && a.Kids[0].Kind == api.Word {
 			if !reader.Equal(a.Kids[0], b.Kids[0]) {
 				return a, b, true // as lists: a head is never replaced
@@ -34,7 +35,7 @@ func differ(a, b api.Form, arguments bool) (api.Form, api.Form, bool) {
 			return x, y, true
 		}
 	}
-	return api.Form{}, api.Form{}, false
+	return a, b, len(a.Kids) != len(b.Kids)
 }
 
 // stands tells whether a variable stands in a type.
@@ -51,11 +52,8 @@ func robinson(a, b []api.Form, vars []string) ([]kind.Pair, api.Errno) {
 			l[i] = kind.Apply(l[i], []kind.Pair{{Name: x, To: to}})
 		}
 	}
-	if len(a) != len(b) {
-		return nil, api.ErrType
-	}
 	a, b = slices.Clone(a), slices.Clone(b)
-	for i := 0; i < len(a); {
+	for i := 0; i < min(len(a), len(b)); {
 		x, to, found := differ(a[i], b[i], false)
 		if !found {
 			i++
@@ -76,6 +74,9 @@ func robinson(a, b []api.Form, vars []string) ([]kind.Pair, api.Errno) {
 			by[name] = kind.Apply(t, []kind.Pair{{Name: x.Text, To: to}})
 		}
 		by[x.Text] = to
+	}
+	if len(a) != len(b) {
+		return nil, api.ErrType
 	}
 	var out []kind.Pair
 	for _, name := range []string{"a", "b", "c", "d"} {
@@ -103,6 +104,9 @@ func TestUnifyMade(t *testing.T) {
 	for range 30000 {
 		n := 1 + d.below(3)
 		a, b := d.several(n, 1+d.below(4)), d.several(n, 1+d.below(4))
+		if d.below(4) == 0 {
+			a = a[:d.below(n+1)]
+		}
 		vars := []string{"a", "b", "c", "d"}[:d.below(5)]
 		got, err := kind.UnifyAll(a, b, vars)
 		want, wantErr := robinson(a, b, vars)

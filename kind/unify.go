@@ -35,10 +35,7 @@ func unified(a, b []api.Form, vars []string) []Pair {
 	for _, f := range slices.Concat(a, b) {
 		must(reader.Valid(f), api.ErrArg)
 	}
-	must(len(a) == len(b), api.ErrType)
-	for i := range a {
-		u.unify(u.nodeOf(a[i], aType), u.nodeOf(b[i], aType))
-	}
+	u.unifyEach(u.nodesOf(a), u.nodesOf(b))
 	return u.pairs()
 }
 
@@ -62,6 +59,24 @@ func (u *unifier) nodeOf(f api.Form, at place) *node {
 		n.kids = append(n.kids, u.nodeOf(kid, placeOf(f, at, i)))
 	}
 	return n
+}
+
+// nodesOf are the nodes of types that stand side by side, in no list.
+func (u *unifier) nodesOf(types []api.Form) []*node {
+	nodes := make([]*node, len(types))
+	for i, t := range types {
+		nodes[i] = u.nodeOf(t, aType)
+	}
+	return nodes
+}
+
+// unifyEach makes nodes equal, one by one. That there are more on one side is
+// met behind those that both sides have.
+func (u *unifier) unifyEach(a, b []*node) {
+	for i := range min(len(a), len(b)) {
+		u.unify(a[i], b[i])
+	}
+	must(len(a) == len(b), api.ErrType)
 }
 
 // unify makes two nodes equal.
@@ -105,15 +120,12 @@ func (u *unifier) finds(v, n *node) bool {
 // unifyLists makes two lists equal. Those that were made so before are passed
 // over: one that stands in many types would be gone through ever again.
 func (u *unifier) unifyLists(a, b *node) {
-	must(len(a.kids) == len(b.kids), api.ErrType)
 	ours, theirs := a.root(), b.root()
 	if ours == theirs {
 		return
 	}
 	ours.same = theirs
-	for i, kid := range a.kids {
-		u.unify(kid, b.kids[i])
-	}
+	u.unifyEach(a.kids, b.kids)
 }
 
 // value is what a node is known to be: itself, if it is no variable, or one of

@@ -84,7 +84,29 @@ var unified = []struct {
 	{"(fun (a) int)", "(fun (int int) int)", "a", "", api.ErrType},
 	{"(fun () int)", "(fun (a) int)", "a", "", api.ErrType},
 	{"(L a)", "(L int int)", "a", "", api.ErrType},
+	{"(L a int)", "(L (seq b))", "a", "", api.ErrType},
 	{"()", "(a)", "a", "", api.ErrType},
+	{"(a)", "()", "a", "", api.ErrType},
+
+	// They are met behind the Kids that both have.
+	{"(L a int)", "(L (seq a))", "a", "", api.ErrLoop},
+	{"(L (seq a))", "(L a int)", "a", "", api.ErrLoop},
+	{"(L a int)", "(L (seq a) int int)", "a", "", api.ErrLoop},
+	{"(L int a int)", "(L int (seq a))", "a", "", api.ErrLoop},
+	{"(L a b)", "(L int (seq b) int)", "a b", "", api.ErrLoop},
+	{"(L a (seq a) b)", "(L b a)", "a b", "", api.ErrLoop},
+	{"(L int a int)", "(L bool (seq a))", "a", "", api.ErrType},
+	{"(L int a)", "(L int)", "a", "", api.ErrType},
+	{"(P a int)", "(L (seq a))", "a", "", api.ErrType},
+	{"(P a int)", "((seq a))", "a", "", api.ErrType},
+	{"(fun (a) int)", "(fun ((seq a) int) int)", "a", "", api.ErrLoop},
+	{"(fun (a int) b)", "(fun (int) (seq b))", "a b", "", api.ErrType},
+	{"(fun (a) b)", "(fun ((seq b) int) (seq a))", "a b", "", api.ErrType},
+	{"(fun (c) 0)", "(fun ((0 c) 0) b)", "c", "", api.ErrLoop},
+	{"(map (L a int) b)", "(map (L (seq int)) (seq b))", "a b", "", api.ErrType},
+	{"(map (L (L a int)) int)", "(map (L (L (seq a)) int) bool)", "a", "", api.ErrLoop},
+	{"(map b (map b a))", "(map (L a int) (map (L (seq a)) int))", "a b", "", api.ErrLoop},
+	{"(3 a)", "(3 (4 a) 5)", "a", "", api.ErrLoop},
 
 	// Loops.
 	{"a", "(seq a)", "a", "", api.ErrLoop},
@@ -102,7 +124,6 @@ var unified = []struct {
 	{"(map int a)", "(map bool (seq a))", "a", "", api.ErrType},
 	{"(map (seq int) a)", "(map (seq bool) (seq a))", "a", "", api.ErrType},
 	{"(map (seq a) int)", "(map (seq (seq a)) bool)", "a", "", api.ErrLoop},
-	{"(L a int)", "(L (seq a) int int)", "a", "", api.ErrType},
 	{"(P a int)", "(L (seq a) bool)", "a", "", api.ErrType},
 	{"(fun (a) int)", "(fun ((seq a)) bool)", "a", "", api.ErrLoop},
 	{"(map a (map a a))", "(map (seq b) (map (seq int) (seq bool)))", "a b", "", api.ErrType},
@@ -167,7 +188,17 @@ func TestUnifyAll(t *testing.T) {
 		{"a", "", "a", "", api.ErrType},
 		{"", "a", "a", "", api.ErrType},
 		{"a", "int int", "a", "", api.ErrType},
-		{"a", "(seq a) int", "a", "", api.ErrType},
+		{"a int", "int", "a", "", api.ErrType},
+		{"a int", "(seq b)", "a b", "", api.ErrType},
+		// They are met behind the types that both have.
+		{"a", "(seq a) int", "a", "", api.ErrLoop},
+		{"a int", "(seq a)", "a", "", api.ErrLoop},
+		{"b 0", "((0 b))", "b", "", api.ErrLoop},
+		{"a b int", "(seq b) (seq a)", "a b", "", api.ErrLoop},
+		{"int a", "bool (seq a) int", "a", "", api.ErrType},
+		{"(L a int) b", "(L int) (seq b)", "a b", "", api.ErrType},
+		{"(L a int)", "(L (seq a)) int", "a", "", api.ErrLoop},
+		{"int", "int a (seq a)", "a", "", api.ErrType},
 	} {
 		got, err := kind.UnifyAll(forms(c.a), forms(c.b), names(c.vars))
 		if err != c.err || told(got) != c.want || err != api.OK && got != nil {
