@@ -148,6 +148,15 @@ func hostile() map[string]api.Form {
 	}
 }
 
+// noNames are words that no variable has as its name: reserved ones, and some
+// that are not valid.
+func noNames() []string {
+	return []string{
+		"int", "bool", "bits", "seq", "set", "bag", "map", "imap", "fun", "maybe",
+		"", "12", "-0", "a b", "(a)", "\x7f", strings.Repeat("a", api.MaxName+1),
+	}
+}
+
 // dice gives numbers that look like random ones, the same in each run.
 type dice uint64
 

@@ -72,7 +72,6 @@ func TestApply(t *testing.T) {
 		// Heads are left alone.
 		{"(a a)", "a int", "(a int)"},
 		{"(a (a a) a)", "a (b a)", "(a (a (b a)) (b a))"},
-		{"(seq seq)", "seq int", "(seq int)"},
 		{"(L (P a b))", "L x P y a int", "(L (P int b))"},
 
 		// But the arguments of a fun have none.
@@ -94,6 +93,17 @@ func TestApply(t *testing.T) {
 		{"(3 a (a))", "a int", "(3 int (a))"},
 		{"(fun a b)", "a int b bool", "(fun int bool)"},
 		{"(fun (a) (a a) (a a))", "a int", "(fun (int) (a int) (a int))"},
+
+		// Reserved words are no variables.
+		{"int", "int a", "int"},
+		{"(map int b)", "int a b int", "(map int int)"},
+		{"(map b int)", "b int int a", "(map int int)"},
+		{"(seq bool)", "bool a", "(seq bool)"},
+		{"(fun (int bool) int)", "int a bool b", "(fun (int bool) int)"},
+		{"(seq seq)", "seq int", "(seq seq)"},
+		{"(P bits seq set bag map imap fun maybe)", "bits a seq a set a bag a map a imap a fun a maybe a", "(P bits seq set bag map imap fun maybe)"},
+		{"(fun (fun a) (maybe a))", "fun int maybe int a C", "(fun (fun C) (maybe C))"},
+		{"(map ints Int)", "ints int Int bool", "(map int bool)"},
 	} {
 		if got := kind.Apply(form(c.t), pairs(c.by)); reader.Write(got) != c.want {
 			t.Errorf("Apply %s by %s: %q, want %s", c.t, c.by, reader.Write(got), c.want)
@@ -101,7 +111,8 @@ func TestApply(t *testing.T) {
 	}
 }
 
-// P3.2: what is no word, or a head, is left alone in forms that are not valid.
+// P3.2: what is no word, or a head, is left alone in forms that are not valid,
+// and so is a word that is not valid: no variable has that name.
 func TestApplyNotValid(t *testing.T) {
 	by := pairs("a int")
 	for name, f := range hostile() {
@@ -113,9 +124,13 @@ func TestApplyNotValid(t *testing.T) {
 			t.Errorf("Apply of %s: %v", name, got)
 		}
 	}
-	empty := list(word(""), word(""))
-	if got := kind.Apply(empty, []kind.Pair{{Name: "", To: word("int")}}); !identical(got, list(word(""), word("int"))) {
+	if got := kind.Apply(list(word(""), word("a")), by); !identical(got, list(word(""), word("int"))) {
 		t.Errorf("Apply of an empty head: %v", got)
+	}
+	for _, name := range noNames() {
+		if got := kind.Apply(list(word("L"), word(name)), []kind.Pair{{Name: name, To: word("a")}}); !identical(got, list(word("L"), word(name))) {
+			t.Errorf("Apply by a pair of %q: %v", name, got)
+		}
 	}
 }
 
@@ -187,10 +202,29 @@ func TestCompose(t *testing.T) {
 		{"", "b b b int", ""},
 		// Names are ascending by their bytes.
 		{"b int a10 int", "a9 int B int a int", "B int a int a10 int a9 int b int"},
+		// Reserved words are no variables.
+		{"int a", "", ""},
+		{"", "int a", ""},
+		{"int a", "int b", ""},
+		{"b int", "int a", "b int"},
+		{"b (map int c)", "int a c bool", "b (map int bool) c bool"},
+		{"int b bool a c int", "b bool a int int c", "a int b bool c int"},
+		{"int a int b a int", "a bool", "a int"},
+		{"seq a fun int b (fun (fun) seq)", "seq int fun b", "b (fun (fun) seq)"},
 	} {
 		if got := kind.Compose(pairs(c.first), pairs(c.then)); told(got) != c.want {
 			t.Errorf("Compose %q, %q: %q, want %q", c.first, c.then, told(got), c.want)
 		}
+	}
+}
+
+// P3.2: no pair of Compose has a name that no variable has.
+func TestComposeNotValid(t *testing.T) {
+	for _, name := range noNames() {
+		odd := []kind.Pair{{Name: name, To: word("a")}, {Name: "b", To: word("int")}}
+		same(t, "Compose of "+name+" and none", kind.Compose(odd, nil), odd[1:])
+		same(t, "Compose of none and "+name, kind.Compose(nil, odd), odd[1:])
+		same(t, "Compose of both and "+name, kind.Compose(odd, odd), odd[1:])
 	}
 }
 

@@ -203,11 +203,12 @@ func TestUnifyIsWrittenOut(t *testing.T) {
 	}
 }
 
-// P3.3: Apply of Compose is Apply of the second one of Apply of the first one.
+// P3.3: Apply of Compose is Apply of the second one of Apply of the first one,
+// also where some pairs are of reserved words.
 func TestComposeMade(t *testing.T) {
 	d := dice(4)
 	for range 20000 {
-		first, then := d.by(all, heads), d.by(all, heads)
+		first, then := d.by(all+" int seq", heads), d.by(all+" int seq", heads)
 		both := kind.Compose(first, then)
 		for range 3 {
 			f := d.kind(4, words, heads)
@@ -217,7 +218,7 @@ func TestComposeMade(t *testing.T) {
 			}
 		}
 		for i, pair := range both {
-			if i > 0 && both[i-1].Name >= pair.Name || reader.Equal(pair.To, word(pair.Name)) {
+			if i > 0 && both[i-1].Name >= pair.Name || reader.Equal(pair.To, word(pair.Name)) || !slices.Contains(names(all), pair.Name) {
 				t.Fatalf("Compose %q, %q: %q", told(first), told(then), told(both))
 			}
 		}

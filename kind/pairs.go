@@ -8,11 +8,11 @@ import (
 )
 
 // byName is a substitution by its names: of several pairs of a name the first
-// one counts.
+// one counts. What is no name is no variable, so a pair of it counts for nothing.
 func byName(by []Pair) map[string]api.Form {
 	known := map[string]api.Form{}
 	for _, pair := range by {
-		if _, ok := known[pair.Name]; !ok {
+		if _, ok := known[pair.Name]; !ok && isName(pair.Name) {
 			known[pair.Name] = pair.To
 		}
 	}
