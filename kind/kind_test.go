@@ -160,9 +160,27 @@ func TestVariance(t *testing.T) {
 	if got := kind.Variance(form("(seq (a b))"), ""); got != 0 {
 		t.Errorf("Variance of no name: %d", got)
 	}
+	if got := kind.Variance(form("(fun (ints) int)"), "ints"); got != -1 {
+		t.Errorf("Variance of a name that begins as a reserved word: %d", got)
+	}
 	for name, f := range hostile() {
 		if got := kind.Variance(f, "nope"); got != 0 {
 			t.Errorf("Variance in %s: %d", name, got)
+		}
+	}
+}
+
+// P3.2: what no variable has as its name stands nowhere as one.
+func TestVarianceOfNoVariable(t *testing.T) {
+	for _, name := range noNames() {
+		w := word(name)
+		for _, f := range []api.Form{
+			w, list(word("seq"), w), list(word("L"), w), list(w, w), list(word("L"), w, list(word("a"), w)),
+			list(word("fun"), list(w), word("a")), list(word("fun"), list(word("a")), w), list(word("fun"), list(w), w),
+		} {
+			if got := kind.Variance(f, name); got != 0 {
+				t.Errorf("Variance of %q in %v: %d", name, f, got)
+			}
 		}
 	}
 }
