@@ -292,6 +292,19 @@ func TestInstance(t *testing.T) {
 		{"(fun () a)", "(fun () (fun () int))", "a", "a (fun () int)", true},
 		// A variable that is named twice is one.
 		{"(map a a)", "(map int int)", "a a", "a int", true},
+		// Reserved words are no variables.
+		{"int", "bool", "int", "", false},
+		{"int", "(seq int)", "int bool", "", false},
+		{"int", "int", "int", "", true},
+		{"(seq bool)", "(seq a)", "bool", "", false},
+		{"(seq bool)", "(seq bool)", "bool", "", true},
+		{"(map int b)", "(map a int)", "int b", "", false},
+		{"(map int b)", "(map int a)", "int b", "b a", true},
+		{"(fun (int a) int)", "(fun (int bool) int)", "int a int", "a bool", true},
+		{"(fun (int a) int)", "(fun (a int) a)", "int a", "", false},
+		{"(L seq)", "(L int)", "seq L", "", false},
+		{"(fun (fun a) b)", "(fun (fun maybe) int)", "fun a maybe b", "a maybe b int", true},
+		{"(map ints Int)", "(map int bool)", "ints int Int", "Int bool ints int", true},
 	} {
 		got, ok := kind.Instance(form(c.of), form(c.t), names(c.vars))
 		if ok != c.ok || told(got) != c.want {
@@ -310,6 +323,24 @@ func names(s string) []string {
 		l = append(l, f.Text)
 	}
 	return l
+}
+
+// P3.2: what no variable has as its name becomes itself alone.
+func TestInstanceOfNoVariable(t *testing.T) {
+	for _, name := range noNames() {
+		w, a := word(name), word("a")
+		for _, of := range []api.Form{w, list(word("seq"), w), list(word("fun"), list(w), word("b"))} {
+			if got, ok := kind.Instance(of, of, []string{name}); !ok || got != nil {
+				t.Errorf("Instance of %v by itself, vars %q: %q, %v", of, name, told(got), ok)
+			}
+		}
+		if got, ok := kind.Instance(w, a, []string{name}); ok || got != nil {
+			t.Errorf("Instance of %q by a: %q", name, told(got))
+		}
+		if got, ok := kind.Instance(list(word("map"), a, w), list(word("map"), w, a), []string{name, "a"}); ok || got != nil {
+			t.Errorf("Instance of a and %q by these turned round: %q", name, told(got))
+		}
+	}
 }
 
 // R1: forms that are not valid, and vars that are no names, do no harm.
