@@ -20,6 +20,18 @@ type decl struct {
 	body       string
 	members    []decl
 	ctors      []string // of data
+	vars       []string // type variables, which hide names
+}
+
+// uses are the names that a declaration uses.
+func (d decl) uses() []string {
+	var names []string
+	for _, s := range marks().FindAllString(d.text("!"), -1) {
+		if s[0] == '@' && !slices.Contains(d.vars, s[1:]) {
+			names = append(names, s[1:])
+		}
+	}
+	return names
 }
 
 // isWhole tells whether a declaration is refined by an equal one alone.
@@ -179,6 +191,9 @@ func (w world) means(m mod, name string) (string, api.Errno) {
 func (w world) flat(m mod, d decl) string {
 	return marks().ReplaceAllStringFunc(d.text("!"), func(s string) string {
 		by := m.name
+		if s[0] == '@' && slices.Contains(d.vars, s[1:]) {
+			return s[1:]
+		}
 		if s[0] == '@' {
 			by, _ = w.means(m, s[1:])
 		}
@@ -249,8 +264,8 @@ func (w world) check() api.Errno {
 	for _, m := range ordered {
 		_, l, _ := w.full(m)
 		for _, d := range l {
-			for _, s := range marks().FindAllString(d.text("!"), -1) {
-				if _, err := w.means(m, s[1:]); s[0] == '@' && err != api.OK {
+			for _, name := range d.uses() {
+				if _, err := w.means(m, name); err != api.OK {
 					return err
 				}
 			}
@@ -284,6 +299,14 @@ func (m *maker) use() string {
 		return "@" + m.one("n0", "n1", "none")
 	}
 	return "@" + m.one(m.uses...)
+}
+
+// vars is no type variable, or one, which may be spelled like what is used.
+func (m *maker) vars() []string {
+	if m.below(3) > 0 {
+		return nil
+	}
+	return []string{m.one("n1", m.one(m.uses...), m.one(m.uses...))}
 }
 
 func (m *maker) typ() string {
@@ -342,7 +365,8 @@ func (m *maker) decl(inClass bool) decl {
 	switch d.head {
 	case "data", "codata":
 		d.ctors = []string{m.name()}
-		d.sig, d.body = m.one("()", "(n9)"), "(!"+d.ctors[0]+" (x "+m.typ()+"))"
+		d.vars = m.vars()
+		d.sig, d.body = "("+strings.Join(d.vars, "")+")", "(!"+d.ctors[0]+" (x "+m.typ()+"))"
 	case "sub":
 		d.sig, d.body = "(x "+m.typ()+")", m.expr()+" "+m.expr()
 	case "field":
@@ -361,8 +385,10 @@ func (m *maker) decl(inClass bool) decl {
 		if d.head == "function" {
 			d.sig += " " + m.typ()
 		}
-		if d.head == "function" && !inClass && m.below(4) == 0 {
-			d.sig = "(tp n9) " + d.sig
+		if d.vars = m.vars(); len(d.vars) > 0 && !inClass && (d.head == "function" || d.head == "predicate") {
+			d.sig = "(tp " + d.vars[0] + ") " + d.sig
+		} else {
+			d.vars = nil
 		}
 	}
 	return m.finish(d, body)
@@ -405,7 +431,8 @@ func (m *maker) refining(d decl, inClass bool) decl {
 	other := m.decl(inClass)
 	wrong := m.below(40)
 	if wrong == 0 {
-		return decl{ghost: other.ghost, head: other.head, name: d.name, sig: other.sig, body: other.body, members: other.members, ctors: other.ctors}
+		other.name, other.clauses, other.ensures = d.name, nil, nil
+		return other
 	}
 	if d.head == "class" {
 		own := []decl{}

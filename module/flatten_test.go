@@ -105,18 +105,34 @@ func TestAskedNames(t *testing.T) {
 	}
 }
 
-// P6.2: type variables mean nothing else in types, within their declaration
-// alone. As names of what is called and made they mean what they mean elsewhere.
+// P6.1, P6.2: type variables hide names wherever one is used, within their
+// declaration alone. What is declared there is renamed as ever.
 func TestTypeVariables(t *testing.T) {
 	for _, c := range []struct{ decls, want string }{
 		{"(data D (u) (C (x u) (y (D u))) (u)) (class E () (field x u))", "(data M_D (u) (M_C (x u) (y (M_D u))) (M_u)) (class M_E () (field x M_u))"},
-		{"(codata D (a u) (eq u) (u (x (u a)))) (sub S (u u) u u)", "(codata M_D (a u) (eq u) (M_u (x (u a)))) (sub M_S (u M_u) u u)"},
-		{"(function u (tp u D) ((u u) (x D)) (seq u) (requires (is u u)) (fn ((u u)) (call u (of u) (empty D)))) (predicate D ((x u)))", "(function M_u (tp u D) ((u u) (x D)) (seq u) (requires (is M_u u)) (fn ((u u)) (call M_u (of u) (empty D)))) (predicate M_D ((x M_u)))"},
-		{"(ghost (predicate p (tp u) ((x u)) (by (var y u) (new y u) (reveal u)) (match x (u (u) (make u (of u) u))))) (trait u (u))", "(ghost (predicate M_p (tp u) ((x u)) (by (var y u) (new y M_u) (reveal M_u)) (match x (M_u (u) (make M_u (of u) u))))) (trait M_u (M_u))"},
+		{"(codata D (a u) (eq u) (u (x (u a)))) (sub S (u u) (is u u) (call u))", "(codata M_D (a u) (eq u) (M_u (x (u a)))) (sub M_S (u M_u) (is M_u u) (call M_u))"},
+		{"(function u (tp u D) ((u u) (x D)) (seq u) (requires (is u u)) (fn ((u u)) (call u (of u) (empty D)))) (predicate D ((x u)))", "(function M_u (tp u D) ((u u) (x D)) (seq u) (requires (is u u)) (fn ((u u)) (call u (of u) (empty D)))) (predicate M_D ((x M_u)))"},
+		{"(ghost (predicate p (tp u) ((x u)) (by (var y u) (new y u) (reveal u)) (match x (u (u) (make u (of u) u))))) (trait u (u))", "(ghost (predicate M_p (tp u) ((x u)) (by (var y u) (new y u) (reveal u)) (match x (u (u) (make u (of u) u))))) (trait M_u (M_u))"},
+		{"(function f (tp u v) () int (by (call () u) (lemma (x 1 2) (requires true) v) (case 1 (u ()))) (fuel 2 v (prefix u 1))) (function g () int (call u (call v))) (method u () ()) (method v () ())", "(function M_f (tp u v) () int (by (call () u) (lemma (x 1 2) (requires true) v) (case 1 (u ()))) (fuel 2 v (prefix u 1))) (function M_g () int (call M_u (call M_v))) (method M_u () ()) (method M_v () ())"},
 	} {
 		flat, err := module.Flatten(forms("(module M " + c.decls + ")"))
 		if got := told(flat, err); got != c.want {
 			t.Errorf("Flatten %s:\n got %s\nwant %s", c.decls, got, c.want)
+		}
+	}
+	for _, s := range all() {
+		if !strings.Contains(s, "(tp %") {
+			continue
+		}
+		// What a type variable hides is no name that is asked, nor written anew.
+		text := spelled(s, "v", "d", "l")
+		flat, err := module.Flatten(forms("(module A (function v () int)) (module B (function v () int)) (module M (open A) (open B) " + text + ")"))
+		if got, want := told(flat, err), "(function A_v () int) (function B_v () int) "+spelled(s, "v", "M_d", "l"); got != written(forms(want)) {
+			t.Errorf("Flatten %s:\n got %s\nwant %s", text, got, want)
+		}
+		flat, err = module.Flatten(forms("(module M " + text + ")"))
+		if got, want := told(flat, err), spelled(s, "v", "M_d", "l"); got != written(forms(want)) {
+			t.Errorf("Flatten %s:\n got %s\nwant %s", text, got, want)
 		}
 	}
 }

@@ -140,7 +140,8 @@ func exprPattern(head string) string {
 type walk struct {
 	// show gets the words that name what modules declare.
 	show func(at *api.Form, isDeclared bool)
-	// vars are the type variables, whose names mean nothing else in types.
+	// vars are the type variables, whose names mean nothing else where a name is
+	// used. What is declared may be spelled like one.
 	vars map[string]bool
 }
 
@@ -162,8 +163,10 @@ func (w walk) parts(pattern string, kids []api.Form) {
 // part goes through what a letter stands for.
 func (w walk) part(letter byte, f *api.Form) {
 	switch letter {
-	case 'd', 'u':
-		w.show(f, letter == 'd')
+	case 'd':
+		w.show(f, true)
+	case 'u':
+		w.used(f)
 	case 'T':
 		w.words(f)
 	case 'D':
@@ -213,11 +216,17 @@ func typeVars(decl api.Form) []api.Form {
 	return nil
 }
 
+// used shows a word that uses a name, unless a type variable hides it.
+func (w walk) used(f *api.Form) {
+	if !w.vars[f.Text] {
+		w.show(f, false)
+	}
+}
+
 // words goes through a type.
 func (w walk) words(f *api.Form) {
-	isName := f.Kind == api.Word && len(kind.Names(*f)) > 0
-	if isName && !w.vars[f.Text] {
-		w.show(f, false)
+	if f.Kind == api.Word && len(kind.Names(*f)) > 0 {
+		w.used(f)
 	}
 	for i := range f.Kids {
 		w.words(&f.Kids[i])
