@@ -314,9 +314,16 @@ func (b *book) chosen(d plan, arguments []api.Form, round int) int {
 	})
 }
 
+// enough rounds are more than the types need that a maker makes.
+const enough = 15
+
 // witness is that of a type as a text, or an error.
 func (b *book) witness(t api.Form) string {
-	if !b.ready(t) {
+	is := b.ready(t)
+	if reader.Head(t) == "imap" { // ready, whatever its value is, but it needs one
+		is = b.readyIn(t, enough)
+	}
+	if !is {
 		return "error 3"
 	}
 	return b.made(t)

@@ -162,11 +162,14 @@ func TestCountByTheBook(t *testing.T) {
 
 // P9.2, P9.3: witnesses by the book. They have a type that fits.
 func TestWitnessByTheBook(t *testing.T) {
-	tried, generic := map[bool]int{}, 0
+	tried, generic, imaps := map[bool]int{}, 0, 0
 	eachMade(t, 4, 1500, func(m *maker, p []api.Form, b *book) {
 		table, _ := inhabit.Table(p)
-		for range 4 {
+		for i := range 8 {
 			of := m.closed(2)
+			if i >= 4 {
+				of = list(word("imap"), word("int"), m.dataWithArguments())
+			}
 			if kind.Check(of, table) != api.OK {
 				continue
 			}
@@ -181,6 +184,9 @@ func TestWitnessByTheBook(t *testing.T) {
 			tried[err == api.OK]++
 			if strings.Contains(want, "(of ") {
 				generic++
+			}
+			if err == api.OK && reader.Head(of) == "imap" && !b.ready(of) {
+				imaps++
 			}
 			if err != api.OK || strings.Contains(want, "(imap null") {
 				continue // an imap of null alone has no type
@@ -197,8 +203,8 @@ func TestWitnessByTheBook(t *testing.T) {
 			}
 		}
 	})
-	if tried[true] < 1000 || tried[false] < 500 || generic < 100 {
-		t.Errorf("too little was tried: %v, %d", tried, generic)
+	if tried[true] < 1000 || tried[false] < 500 || generic < 100 || imaps < 50 {
+		t.Errorf("too little was tried: %v, %d, %d", tried, generic, imaps)
 	}
 }
 

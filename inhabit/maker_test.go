@@ -166,3 +166,13 @@ func (m *maker) closed(deep int) api.Form {
 	m.plans = m.plans[:m.at]
 	return form(s)
 }
+
+// dataWithArguments is a type without type variables, mostly of data with
+// arguments.
+func (m *maker) dataWithArguments() api.Form {
+	of := m.closed(2)
+	for i := 0; i < 10 && !strings.HasPrefix(reader.Write(of), "(d"); i++ {
+		of = m.closed(3)
+	}
+	return of
+}

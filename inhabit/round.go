@@ -1,139 +1,179 @@
 package inhabit
 
-import (
-	"slices"
+import "plinth/api"
 
-	"plinth/api"
-)
+// A witness of data is deeper than their round, and a form is no deeper than
+// MaxDeep: later rounds do not matter.
+const lastRound = api.MaxDeep - 1
 
-const never = 1 << 30 // a round behind all others
-
-// An instance is data or a subset type, and the rounds of its arguments.
-type instance struct {
-	name   string
-	rounds [maxTypeVars]int
+// A way is one in which something is ready in a round, but not ahead of the
+// arguments that it needs.
+type way struct {
+	round int
+	// needs has 0 for an argument that may be what it likes, and n + 1 for one that
+	// must be ready n rounds ahead.
+	needs [maxTypeVars]int
 }
 
-// A told is the round in which an instance is told to be something, by a CTOR of
-// which all fields are so ahead of it: by the first one of several.
-type told struct {
-	round, ctor int
+// with is the way to be ready in two ways.
+func (w way) with(other way) way {
+	w.round = max(w.round, other.round)
+	for i, n := range other.needs {
+		w.needs[i] = max(w.needs[i], n)
+	}
+	return w
 }
 
-// isAhead tells whether more is known by one than by another one. What is known
-// stays: it may be that an argument comes ahead, by which others are asked for that
-// are not known yet.
-func (t told) isAhead(other told) bool {
-	return t.round < other.round || t.round == other.round && t.ctor < other.ctor
+// later is the way to be ready some rounds behind, and whether that matters.
+func (w way) later(rounds int) (way, bool) {
+	w.round += rounds
+	matters := w.round <= lastRound
+	for i, n := range w.needs {
+		if n > 0 {
+			w.needs[i] += rounds
+			matters = matters && n+rounds-1 <= lastRound
+		}
+	}
+	return w, matters
 }
 
-// A search finds the rounds in which instances are told to be something. An
-// instance hangs on others, which are asked for on the way.
-type search struct {
-	in *program
-	// known is the round of a name that is no data with CTORs to be looked at, and
-	// whether it is such a name.
-	known func(name string) (int, bool)
-	step  int // how many rounds data come behind their fields
-	last  int // the last round that matters
-	asked []instance
-	told  map[instance]told // of all that are asked for: as early as is known
+// A choice has the ways in which something is ready, none of which is needless
+// beside another one. It is ready in the first round that one of them tells.
+type choice []way
+
+// add adds a way that may be better than those that are there, and tells whether
+// it may.
+func (l choice) add(w way) (choice, bool) {
+	var left choice
+	for _, other := range l {
+		switch w.with(other) {
+		case w: // the other one is as good, or better
+			return l, false
+		case other:
+		default:
+			left = append(left, other)
+		}
+	}
+	return append(left, w), true
 }
 
-// settle finds the rounds of a type, and of all that it leads to. It asks for the
-// type again and again, as it is asked for by the rounds of its arguments.
-func (s *search) settle(t api.Form) {
+// with are the ways in which two things are ready together.
+func (l choice) with(other choice) choice {
+	var both choice
+	for _, w := range l {
+		for _, v := range other {
+			both, _ = both.add(w.with(v))
+		}
+	}
+	return both
+}
+
+// later are the ways to be ready some rounds behind.
+func (l choice) later(rounds int) choice {
+	var behind choice
+	for _, w := range l {
+		if w, matters := w.later(rounds); matters {
+			behind = append(behind, w)
+		}
+	}
+	return behind
+}
+
+// A readiness has the ways in which the data of a program are ready, with whatever
+// arguments are put in.
+type readiness struct {
+	in   *program
+	ways map[string]choice // by name
+}
+
+// findWays finds the ways of all data. They are found for all arguments at once:
+// data may stand in themselves with ever greater ones.
+func (in *program) findWays() *readiness {
+	r := &readiness{in: in, ways: map[string]choice{}}
 	untilStill(func() bool {
-		s.roundOf(t, instance{})
-		return s.look()
+		grew := false
+		for _, d := range in.decls {
+			if in.founded[d.name] {
+				grew = r.lookAt(d) || grew
+			}
+		}
+		return grew
 	})
+	return r
 }
 
-// roundOf is the round of a type in an instance, as early as is known.
-func (s *search) roundOf(t api.Form, at instance) int {
+// lookAt looks for ways of data, and tells whether one is new.
+func (r *readiness) lookAt(d decl) bool {
+	own := map[string]choice{}
+	for i, v := range d.vars {
+		var needed way
+		needed.needs[i] = 1
+		own[v] = choice{needed}
+	}
+	grew := false
+	for _, c := range d.ctors {
+		for _, w := range r.ofCtor(c, own) {
+			more, is := r.ways[d.name].add(w)
+			r.ways[d.name], grew = more, grew || is
+		}
+	}
+	return grew
+}
+
+// ofCtor are the ways of what a CTOR makes, by those of the type variables.
+func (r *readiness) ofCtor(c ctor, vars map[string]choice) choice {
+	all := choice{way{}}
+	for _, t := range c.fields {
+		all = all.with(r.of(t, vars))
+	}
+	return all.later(1)
+}
+
+// of are the ways of a type, by those of the type variables.
+func (r *readiness) of(t api.Form, vars map[string]choice) choice {
 	name, behind := parts(t)
 	switch name {
 	case "int", "bool", "bits", "seq", "set", "bag", "map", "maybe":
-		return 0
+		return choice{way{}}
 	case "imap":
-		return s.roundOf(behind[1], at)
+		return r.of(behind[1], vars)
 	}
-	if i := slices.Index(s.in.named[at.name].vars, name); i >= 0 {
-		return at.rounds[i]
+	if ways, is := vars[name]; is {
+		return ways
 	}
-	if round, ok := s.known(name); ok {
-		return round
+	if r.in.row[name].Kind == aSub {
+		return choice{way{}}
 	}
-	return s.ask(s.instanceOf(name, behind, at)).round
-}
-
-// instanceOf is the instance of a name with arguments that stand in another one.
-func (s *search) instanceOf(name string, arguments []api.Form, at instance) instance {
-	inner := instance{name: name}
-	for i, t := range arguments {
-		inner.rounds[i] = s.roundOf(t, at)
-	}
-	return inner
-}
-
-// ask is what is known of an instance.
-func (s *search) ask(at instance) told {
-	known, before := s.told[at]
-	if !before {
-		known.round = never
-		s.told[at] = known
-		s.asked = append(s.asked, at)
-	}
-	return known
-}
-
-// look looks at all that are asked for, also at those that are asked for on the
-// way, and tells whether more is known of one now.
-func (s *search) look() bool {
-	more := false
-	for i := 0; i < len(s.asked); i++ {
-		at := s.asked[i]
-		if first := s.first(at); first.isAhead(s.told[at]) {
-			s.told[at] = first
-			more = true
+	var all choice
+	for _, w := range r.ways[name] {
+		ways := choice{way{round: w.round}}
+		for i, argument := range behind {
+			if n := w.needs[i]; n > 0 {
+				ways = ways.with(r.of(argument, vars).later(n - 1))
+			}
+		}
+		for _, w := range ways {
+			all, _ = all.add(w)
 		}
 	}
-	return more
+	return all
 }
 
-// first is what the CTORs of an instance tell.
-func (s *search) first(at instance) told {
-	first := told{round: never}
-	for i, c := range s.in.named[at.name].ctors {
-		if s.holdsItself(c, at) {
-			continue
-		}
-		round := 0
-		for _, t := range c.fields {
-			round = max(round, s.roundOf(t, at))
-		}
-		if round += s.step; round < first.round && round <= s.last {
-			first = told{round: round, ctor: i}
+// firstCtor is the CTOR by which data with arguments are ready first: of several
+// the first one.
+func (r *readiness) firstCtor(d decl, arguments []api.Form) ctor {
+	vars := map[string]choice{}
+	for i, v := range d.vars {
+		vars[v] = r.of(arguments[i], nil)
+	}
+	first, round := ctor{}, lastRound+1
+	for _, c := range d.ctors {
+		// There is one way at most: nothing is left that it may need.
+		for _, w := range r.ofCtor(c, vars) {
+			if w.round < round {
+				first, round = c, w.round
+			}
 		}
 	}
 	return first
-}
-
-// holdsItself tells whether an instance has a field of its own data in a CTOR, with
-// no argument that comes ahead of its own one. Such a field does not come ahead of
-// the instance either, and it may lead to ever more instances.
-func (s *search) holdsItself(c ctor, at instance) bool {
-	return slices.ContainsFunc(c.fields, func(t api.Form) bool {
-		name, arguments := parts(t)
-		if name != at.name || s.in.named[name].has(name) {
-			return false
-		}
-		inner := s.instanceOf(name, arguments, at)
-		for i, round := range inner.rounds {
-			if round < at.rounds[i] {
-				return false
-			}
-		}
-		return true
-	})
 }

@@ -95,10 +95,7 @@ func TestWitnessOfSingles(t *testing.T) {
 	eachMade(t, 7, 2500, func(m *maker, p []api.Form, b *book) {
 		table, _ := inhabit.Table(p)
 		for range 3 {
-			of := m.closed(2)
-			for i := 0; i < 10 && !strings.HasPrefix(reader.Write(of), "(d"); i++ {
-				of = m.closed(3)
-			}
+			of := m.dataWithArguments()
 			w, err := inhabit.Witness(p, of)
 			s := &single{of: b}
 			name := s.name(of)

@@ -11,17 +11,18 @@ import (
 // A maker makes witnesses. It stops where a witness has more parts than a form may
 // have: there may be very many of them.
 type maker struct {
-	ready *search
-	left  int
+	*readiness
+	left int
 }
 
-// witness is that of a type, and whether there is one.
+// witness is that of a type, and whether there is one. Data are asked for only if
+// they are ready by their name alone, but an imap is ready whatever its value is:
+// that is made if it is ready with its arguments put in.
 func (in *program) witness(t api.Form) (api.Form, bool) {
-	if !in.isReady(t, decl{}) {
+	m := &maker{readiness: in.findWays(), left: api.MaxForm}
+	if !kind.Ready(t, in.rows) || len(m.of(t, nil)) == 0 {
 		return api.Form{}, false
 	}
-	m := &maker{ready: in.readiness(), left: api.MaxForm}
-	m.ready.settle(t)
 	w, ok := m.witness(t)
 	if !ok || !reader.Valid(w) {
 		return api.Form{}, false
@@ -41,7 +42,8 @@ func (m *maker) take(l ...api.Form) bool {
 	return true
 }
 
-// witness is that of a type that is ready, and whether it could be made.
+// witness is that of a type that is ready, with its arguments put in, and whether
+// it could be made.
 func (m *maker) witness(t api.Form) (api.Form, bool) {
 	var w api.Form
 	name, behind := parts(t)
@@ -60,7 +62,7 @@ func (m *maker) witness(t api.Form) (api.Form, bool) {
 		value, ok := m.witness(behind[1])
 		return list(word("imap"), value, behind[0]), ok
 	default:
-		d := m.ready.in.named[name]
+		d := m.in.named[name]
 		if d.kind != aSub {
 			return m.made(d, behind)
 		}
@@ -79,7 +81,7 @@ func (m *maker) made(d decl, arguments []api.Form) (api.Form, bool) {
 		return api.Form{}, false
 	}
 	by := d.pairs(arguments)
-	c := d.ctors[m.ready.ask(m.ready.instanceOf(d.name, arguments, instance{})).ctor]
+	c := m.firstCtor(d, arguments)
 	kids = slices.Insert(kids, 1, word(c.name))
 	for _, t := range c.fields {
 		w, ok := m.witness(kind.Apply(t, by))

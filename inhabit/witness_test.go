@@ -24,6 +24,8 @@ var witnesses = map[string]string{
 	"int": "0", "bool": "false", "(bits 1)": "(bits 1 0)", "(bits 16)": "(bits 16 0)", "(maybe C)": "null", "(maybe R)": "null",
 	"(seq int)": "(empty (seq int))", "(set nat)": "(empty (set nat))", "(bag (seq big))": "(empty (bag (seq big)))", "(map int (fun () C))": "(empty (map int (fun () C)))", "(seq C)": "(empty (seq C))", "(seq V)": "(empty (seq V))", "(set (maybe C))": "(empty (set (maybe C)))", "(seq (S Non))": "(empty (seq (S Non)))", "(seq (Box int))": "(empty (seq (Box int)))",
 	"(imap int bool)": "(imap false int)", "(imap C nat)": "(imap 3 C)", "(imap nat (imap bool T))": "(imap (imap (make Leaf) bool) nat)", "(imap V (seq V))": "(imap (empty (seq V)) V)", "(imap int fun1)": "(imap (fn ((x int)) x) int)",
+	// An imap is ready always: its value need not be so by its name alone.
+	"(imap int (Box int))": "(imap (make MkBox (of int) 0) int)", "(imap nat (Pair int (seq C)))": "(imap (make Both (of int (seq C)) 0 (empty (seq C))) nat)", "(imap T (Box (Box (maybe R))))": "(imap (make MkBox (of (Box (maybe R))) (make MkBox (of (maybe R)) null)) T)", "(imap int (imap bool (Box T)))": "(imap (imap (make MkBox (of T) (make Leaf)) bool) int)", "(imap int (Box (imap int (Box nat))))": "(imap (make MkBox (of (imap int (Box nat))) (imap (make MkBox (of nat) 3) int)) int)", "(imap int Held)": "(imap (make H1 (make MkBox (of int) 0)) int)", "(imap int (L (Box C)))": "(imap (make Nil (of (Box C))) int)", "(imap int (Opt (Box C)))": "(imap (make No (of (Box C))) int)", "(imap int (Wrap (Box obj)))": "(imap (make W2 (of (Box obj)) (make No (of (Box obj)))) int)", "(imap int (Box (fun () int)))": "error 3", "(imap int (Box (Box C)))": "error 3", "(imap int (Pair int V))": "error 3", "(imap int (Box (S int)))": "error 3", "(imap int (Non2 int))": "error 3", "(imap int Fin)": "error 3", "(imap bool (imap int R))": "error 3",
 	"nat": "3", "big": "(+ 9 (call up 1))", "ls": "(make Cons 1 (make Nil (of nat)))", "fun1": "(fn ((x int)) x)", "obj": "c", "st": "(call ones)", "bad": "(div 1 0)",
 	"T": "(make Leaf)", "(L int)": "(make Nil (of int))", "(L (fun () C))": "(make Nil (of (fun () C)))", "(L V)": "(make Nil (of V))", "(L (L nat))": "(make Nil (of (L nat)))", "One": "(make O1)", "Late": "(make La1 (make O1))", "Later": "(make Lb1 (make La1 (make O1)))", "Far": "(make F2 (make La1 (make O1)))", "Two": "(make Tw2 0 false)",
 	// The variables stand for what is put in.
@@ -32,7 +34,7 @@ var witnesses = map[string]string{
 	"(Rec int int)": "(make R2 (of int int) (make Nil (of (Rec int int))) 0)", "(Rec C int)": "(make R2 (of C int) (make Nil (of (Rec C int))) 0)", "(Rec int C)": "(make R1 (of int C) (make R2 (of C int) (make Nil (of (Rec C int))) 0) 0)", "(Rec C R)": "(make R3 (of C R) (make La1 (make O1)))", "(Im int)": "(make Im1 (of int) (imap 0 int))", "(Im (L T))": "(make Im1 (of (L T)) (imap (make Nil (of T)) int))", "(Im C)": "(make Im2 (of C) (make Lb1 (make La1 (make O1))))", "Ims": "(make Ims1 (imap (make Lb1 (make La1 (make O1))) T))",
 	"(Wrap C)": "(make W2 (of C) (make No (of C)))", "(Wrap int)": "(make W1 (of int) (make Both (of int int) 0 0))", "Obj": "(make Ob2 null 3)",
 	// What is not ready.
-	"C": "error 3", "R": "error 3", "(fun () int)": "error 3", "(fun (int) T)": "error 3", "(S int)": "error 3", "Fin": "error 3", "V": "error 3", "Non": "error 3", "(Non2 int)": "error 3", "(Box int)": "error 3", "(Box T)": "error 3", "(Pair int bool)": "error 3", "Held": "error 3", "(imap int C)": "error 3", "(imap int (fun () int))": "error 3", "(imap int (imap int V))": "error 3", "(imap int (Box int))": "error 3", "(imap int (S int))": "error 3",
+	"C": "error 3", "R": "error 3", "(fun () int)": "error 3", "(fun (int) T)": "error 3", "(S int)": "error 3", "Fin": "error 3", "V": "error 3", "Non": "error 3", "(Non2 int)": "error 3", "(Box int)": "error 3", "(Box T)": "error 3", "(Pair int bool)": "error 3", "Held": "error 3", "(imap int C)": "error 3", "(imap int (fun () int))": "error 3", "(imap int (imap int V))": "error 3", "(imap int (S int))": "error 3",
 }
 
 // P9.2: the witness of a type.
@@ -141,6 +143,64 @@ func TestWitnessGrows(t *testing.T) {
 	} {
 		if got := told(inhabit.Witness(append(p, forms("(class C ())")...), form(of))); got != want {
 			t.Errorf("Witness %s: %s, not %s", of, got, want)
+		}
+	}
+}
+
+// P9.2: with their arguments put in, data may be ready in more rounds than there
+// are data. R1: in more than a form may be deep, too.
+func TestWitnessOfImapRounds(t *testing.T) {
+	p := "(data E0 (a) (X0 (x a)))"
+	for i := 1; i < 40; i++ {
+		at, ahead := strconv.Itoa(i), "E"+strconv.Itoa(i-1)
+		p += " (data E" + at + " (a) (X" + at + " (x (" + ahead + " (" + ahead + " a)))))"
+	}
+	// made is the witness of an E of a type, of which one is given.
+	var made func(i int, of, w string) string
+	made = func(i int, of, w string) string {
+		at, ahead := strconv.Itoa(i), "E"+strconv.Itoa(i-1)
+		if i > 0 {
+			inner := made(i-1, of, w)
+			w = made(i-1, "("+ahead+" "+of+")", inner)
+		}
+		return "(make X" + at + " (of " + of + ") " + w + ")"
+	}
+	for i, want := range map[int]string{0: made(0, "int", "0"), 1: made(1, "int", "0"), 2: made(2, "int", "0"), 5: made(5, "int", "0"), 6: "error 3", 7: "error 3", 39: "error 3"} {
+		got := told(inhabit.Witness(forms(p), form("(imap bool (E"+strconv.Itoa(i)+" int))")))
+		if got = strings.TrimSuffix(strings.TrimPrefix(got, "(imap "), " bool)"); got != want {
+			t.Errorf("Witness of an imap to E%d: %s, not %s", i, got, want)
+		}
+	}
+	of, w := "int", "0"
+	for i := range 99 {
+		want := "(imap " + w + " bool)"
+		if f, err := reader.One(want); err != api.OK || !reader.Valid(f) {
+			want = "error 3"
+		}
+		if got := told(inhabit.Witness(forms("(data E0 (a) (X0 (x a)))"), form("(imap bool "+of+")"))); got != want || (want == "error 3") != (i > 97) {
+			t.Errorf("Witness of an imap to %d: %d bytes, not %d", i, len(got), len(want))
+		}
+		of, w = "(E0 "+of+")", "(make X0 (of "+of+") "+w+")"
+	}
+}
+
+// R1: data that stand in each other with ever greater arguments, in all ways.
+func TestWitnessOfImapGrows(t *testing.T) {
+	p := append(chain("(C (x P))"), forms(`(class K ()) (data W (a) (W1 (x a)))
+		(data G (a b c d) (G1 (x (H (W a) b c d)) (y (H a (W b) c d))) (G2 (z (H b d c (W a))) (w (I d (W b) (W a) c))) (G3 (x a) (y b) (z c) (w d)))
+		(data H (a b c d) (H1 (x (G a b c (W d))) (y (I a b (W c) d))) (H2 (x (I b a (W d) c))) (H3 (g (G a b c d))))
+		(data I (a b c d) (I1 (x (G (W d) (W c) b a))) (I2 (x (H d c (W b) int)) (w W149)) (I3 (h (H d c b a))))
+		(data W149 () (W2 (d D149)))`)...)
+	isLet(t, "what grows", p)
+	for of, want := range map[string]string{
+		"(G int int int int)": "(make G3 (of int int int int) 0 0 0 0)", "(H int int int int)": "(make H3 (of int int int int) (make G3 (of int int int int) 0 0 0 0))", "(I int (W int) D1 bool)": "(make I1 (of int (W int) D1 bool) (make G3 (of (W bool) (W D1) (W int) int) (make W1 (of bool) false) (make W1 (of D1) (make C1 (make X0))) (make W1 (of int) 0) 0))",
+		"(G int int int K)": "error 3", "(H K int int int)": "error 3", "(I int D149 int int)": "error 3", "(G (W K) (W (W K)) D90 D60)": "error 3", "(I (G K D9 D7 K) (H D8 D7 D6 D5) (I D5 D6 D7 D8) K)": "error 3",
+	} {
+		if want != "error 3" {
+			want = "(imap " + want + " int)"
+		}
+		if got := told(inhabit.Witness(p, form("(imap int "+of+")"))); got != want {
+			t.Errorf("Witness of an imap to %s: %s, not %s", of, got, want)
 		}
 	}
 }
